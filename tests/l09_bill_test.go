@@ -357,6 +357,16 @@ func TestNumberOfLines(t *testing.T) {
 // changedLine is a line that is changed in some way.
 type changedLine func(x *impl.BillLine)
 
+// spoilingChanges returns changes after which a line is not valid, each for one reason.
+func spoilingChanges() []changedLine {
+	return []changedLine{
+		func(x *impl.BillLine) { x.Quantity = 0 }, func(x *impl.BillLine) { x.Quantity = -1 }, func(x *impl.BillLine) { x.Quantity = mostPer + 1 },
+		func(x *impl.BillLine) { x.From = -1 }, func(x *impl.BillLine) { x.From, x.Until = 6, 5 }, func(x *impl.BillLine) { x.Until = mostDay + 1 },
+		func(x *impl.BillLine) { x.When = nil }, func(x *impl.BillLine) { x.When = condNodes(impl.CondAnd) }, func(x *impl.BillLine) { *x = impl.BillLine{} },
+		func(x *impl.BillLine) { x.Parent = "" }, func(x *impl.BillLine) { x.Part = "" }, func(x *impl.BillLine) { x.Part = x.Parent },
+	}
+}
+
 // linesWith returns three lines of which one is changed: the first, the middle and the last one.
 func linesWith(change changedLine) [][]impl.BillLine {
 	var all [][]impl.BillLine

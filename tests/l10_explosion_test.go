@@ -490,12 +490,7 @@ func TestExplosionOfNoBills(t *testing.T) {
 		checkNoExplosion(t, catalog, linesFrom(s))
 	}
 	checkNoExplosion(t, catalog, slices.Repeat(linesFrom("A>B"), mostLines+1))
-	for _, change := range []changedLine{
-		func(x *impl.BillLine) { x.Quantity = 0 }, func(x *impl.BillLine) { x.Quantity = -1 }, func(x *impl.BillLine) { x.Quantity = mostPer + 1 },
-		func(x *impl.BillLine) { x.From = -1 }, func(x *impl.BillLine) { x.From, x.Until = 6, 5 }, func(x *impl.BillLine) { x.Until = mostDay + 1 },
-		func(x *impl.BillLine) { x.When = nil }, func(x *impl.BillLine) { x.When = condNodes(impl.CondAnd) }, func(x *impl.BillLine) { *x = impl.BillLine{} },
-		func(x *impl.BillLine) { x.Parent = "" }, func(x *impl.BillLine) { x.Part = "" }, func(x *impl.BillLine) { x.Part = x.Parent },
-	} {
+	for _, change := range spoilingChanges() {
 		for _, lines := range linesWith(change) {
 			checkNoExplosion(t, catalog, lines)
 		}
