@@ -162,15 +162,15 @@ func (m ruledModel) partials() [][]impl.Pick {
 	return all
 }
 
-// ordersOf returns the picks in all orders, the given one first.
-func ordersOf(picks []impl.Pick) [][]impl.Pick {
-	if len(picks) == 0 {
-		return [][]impl.Pick{nil}
+// ordersOf returns the elements of a list in all orders, the given one first.
+func ordersOf[T any](l []T) [][]T {
+	if len(l) == 0 {
+		return [][]T{nil}
 	}
-	var all [][]impl.Pick
-	for i, p := range picks {
-		for _, rest := range ordersOf(slices.Concat(picks[:i], picks[i+1:])) {
-			all = append(all, append([]impl.Pick{p}, rest...))
+	var all [][]T
+	for i, x := range l {
+		for _, rest := range ordersOf(slices.Concat(l[:i], l[i+1:])) {
+			all = append(all, append([]T{x}, rest...))
 		}
 	}
 	return all

@@ -65,11 +65,11 @@ func chainOf(names ...string) []impl.BillLine {
 	return l
 }
 
-// shuffledLines returns the lines in an order by chance.
-func shuffledLines(r *rand.Rand, lines []impl.BillLine) []impl.BillLine {
-	l := slices.Clone(lines)
-	r.Shuffle(len(l), func(i, j int) { l[i], l[j] = l[j], l[i] })
-	return l
+// shuffled returns the elements of a list in an order by chance.
+func shuffled[T any](r *rand.Rand, l []T) []T {
+	other := slices.Clone(l)
+	r.Shuffle(len(other), func(i, j int) { other[i], other[j] = other[j], other[i] })
+	return other
 }
 
 // hasCircle reports whether an item is a part of itself: whatever leads to an item and on from it leads through.
@@ -483,11 +483,11 @@ func TestCircles(t *testing.T) {
 		chain := chainOf(names...)
 		for from := range names {
 			for to := range from + 1 {
-				lines := shuffledLines(r, append(slices.Clone(chain), lineFrom(names[from], names[to])))
+				lines := shuffled(r, append(slices.Clone(chain), lineFrom(names[from], names[to])))
 				checkNoBills(t, catalog, lines)
 				circle := append(chainOf(names[to:from+1]...), lineFrom(names[from], names[to]))
-				checkNoBills(t, catalog, shuffledLines(r, circle))
-				checkLevels(t, catalog, shuffledLines(r, circle[1:]))
+				checkNoBills(t, catalog, shuffled(r, circle))
+				checkLevels(t, catalog, shuffled(r, circle[1:]))
 			}
 		}
 	}
@@ -549,7 +549,7 @@ func TestLongestWays(t *testing.T) {
 	chain := chainOf(names...)
 	down := []int{0, 1, 2, 3, 4, 5, 6, 7, 8, 9, 10, 11}
 	for range 100 {
-		if got := impl.LevelsOf(catalog, shuffledLines(r, chain)); !slices.Equal(got, down) {
+		if got := impl.LevelsOf(catalog, shuffled(r, chain)); !slices.Equal(got, down) {
 			t.Errorf("LevelsOf is %v", got)
 		}
 	}
@@ -563,7 +563,7 @@ func TestLongestWays(t *testing.T) {
 	}
 	full = append(full, lineFrom("K", "A"), lineFrom("B", "A"))
 	for range 100 {
-		lines := shuffledLines(r, full)
+		lines := shuffled(r, full)
 		if got := impl.LevelsOf(catalog, lines); !slices.Equal(got, down) {
 			t.Errorf("LevelsOf is %v", got)
 		}

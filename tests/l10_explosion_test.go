@@ -774,7 +774,7 @@ func TestOrderOfNeeds(t *testing.T) {
 				atOnce, _ := impl.PartsOf(b.catalog, b.lines, x.Code, 3, day, nil)
 				checkSorted(t, first)
 				checkSorted(t, atOnce)
-				again, _ := impl.Explosion(b.catalog, shuffledLines(r, b.lines), x.Code, 3, day, nil)
+				again, _ := impl.Explosion(b.catalog, shuffled(r, b.lines), x.Code, 3, day, nil)
 				if !slices.Equal(first, again) {
 					t.Errorf("%v: Explosion of %s is %v or %v", b, x.Code, first, again)
 				}
@@ -887,7 +887,7 @@ func TestMostWays(t *testing.T) {
 			t.Errorf("%v: %d lines", b, len(b.lines))
 		}
 		b.checkAll(t, 5, nil)
-		b.lines = shuffledLines(rand.New(rand.NewSource(12)), b.lines)
+		b.lines = shuffled(rand.New(rand.NewSource(12)), b.lines)
 		b.checkAll(t, 5, nil)
 	}
 }
